@@ -640,7 +640,7 @@ func TestAnything(t *testing.T) { // P1, P2, P3, P4
 		t.Error("too few expressions are right:", good)
 	}
 	anyRun(t, d)
-	if n := runtime.NumGoroutine(); n != before {
+	if n := runtime.NumGoroutine(); n > before { // an earlier test's own may have ended meanwhile
 		t.Errorf("%d goroutines, and %d before", n, before)
 	}
 }

@@ -551,7 +551,7 @@ func TestAnything(t *testing.T) { // P1, P2, P3, P4
 			t.Fatalf("Kind(%v) = %d, error %d", b.Where, k, how)
 		}
 	}
-	if n := runtime.NumGoroutine(); n != before {
+	if n := runtime.NumGoroutine(); n > before { // an earlier test's own may have ended meanwhile
 		t.Errorf("%d goroutines, and %d before", n, before)
 	}
 }

@@ -390,7 +390,7 @@ func TestAnything(t *testing.T) { // P1, P2, P3, P4, 8.1, 8.2
 			}
 		}
 	}
-	if n := runtime.NumGoroutine(); n != before {
+	if n := runtime.NumGoroutine(); n > before { // an earlier test's own may have ended meanwhile
 		t.Errorf("%d goroutines, and %d before", n, before)
 	}
 }

@@ -293,7 +293,7 @@ func TestAnyTokens(t *testing.T) { // P1, P2, P3, P4
 		}
 	}
 	lex.Lex(strings.Repeat("a \"b\" ", 300))
-	if n := runtime.NumGoroutine(); n != before {
+	if n := runtime.NumGoroutine(); n > before { // an earlier test's own may have ended meanwhile
 		t.Errorf("%d goroutines, and %d before", n, before)
 	}
 }

@@ -451,7 +451,7 @@ func TestAnything(t *testing.T) { // P1, P2, P3, P4
 			t.Errorf("error %d is told %d times", why, found[why])
 		}
 	}
-	if n := runtime.NumGoroutine(); n != before {
+	if n := runtime.NumGoroutine(); n > before { // an earlier test's own may have ended meanwhile
 		t.Errorf("%d goroutines, and %d before", n, before)
 	}
 }

@@ -56,7 +56,7 @@ func TestAllArguments(t *testing.T) { // P1, P3, P4
 	if askAll(oddRows()[:len(l):len(l)]) != first {
 		t.Error("what is answered hangs on more than the arguments")
 	}
-	if n := runtime.NumGoroutine(); n != before {
+	if n := runtime.NumGoroutine(); n > before { // an earlier test's own may have ended meanwhile
 		t.Errorf("%d goroutines, and %d before", n, before)
 	}
 	if !reflect.DeepEqual(l, oddRows()) {
