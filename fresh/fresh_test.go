@@ -1,0 +1,203 @@
+package fresh_test
+
+import (
+	"math/rand/v2"
+	"reflect"
+	"runtime"
+	"strconv"
+	"sync"
+	"testing"
+	"unsafe"
+
+	"potsherd/api"
+	"potsherd/fresh"
+)
+
+// maker makes things in which no two texts and no two numbers are alike, so that nothing that is lost or mixed up stays unseen.
+type maker struct {
+	n      int
+	length func() int
+}
+
+func (k *maker) fill(v reflect.Value) {
+	k.n++
+	switch v.Kind() {
+	case reflect.Bool:
+		v.SetBool(true)
+	case reflect.Uint8, reflect.Uint64:
+		v.SetUint(uint64(k.n % 256))
+	case reflect.Int, reflect.Int64:
+		v.SetInt(int64(k.n))
+	case reflect.String:
+		v.SetString("text " + strconv.Itoa(k.n))
+	case reflect.Slice:
+		n := k.length()
+		v.Set(reflect.MakeSlice(v.Type(), n+1, n+3))
+		for i := range v.Len() {
+			k.fill(v.Index(i))
+		}
+		v.SetLen(n) // something stands behind it
+	case reflect.Struct:
+		for i := range v.NumField() {
+			k.fill(v.Field(i))
+		}
+	}
+}
+
+func (k *maker) message() (m api.Msg) {
+	k.fill(reflect.ValueOf(&m).Elem())
+	return m
+}
+
+func (k *maker) disk() (d api.Disk) {
+	k.fill(reflect.ValueOf(&d).Elem())
+	return d
+}
+
+func two() int { return 2 }
+
+// span is a piece of memory.
+type span struct{ from, to uintptr }
+
+func (a span) meets(b span) bool { return a.from < b.to && b.from < a.to }
+
+func meet(a, b []span) bool {
+	for _, x := range a {
+		for _, y := range b {
+			if x.meets(y) {
+				return true
+			}
+		}
+	}
+	return false
+}
+
+// memory is where v's lists, with the room behind them, and its texts lie.
+func memory(v reflect.Value) (l []span) {
+	switch v.Kind() {
+	case reflect.String:
+		if s := v.String(); s != "" {
+			p := uintptr(unsafe.Pointer(unsafe.StringData(s)))
+			l = append(l, span{p, p + uintptr(len(s))})
+		}
+	case reflect.Slice:
+		if n := uintptr(v.Cap()) * v.Type().Elem().Size(); n > 0 {
+			l = append(l, span{v.Pointer(), v.Pointer() + n})
+		}
+		for i := range v.Len() {
+			l = append(l, memory(v.Index(i))...)
+		}
+	case reflect.Struct:
+		for i := range v.NumField() {
+			l = append(l, memory(v.Field(i))...)
+		}
+	}
+	return l
+}
+
+// hold says that copied is just like v, in memory of its own.
+func hold(t *testing.T, name string, v, copied any) {
+	t.Helper()
+	if !reflect.DeepEqual(tidy(v), copied) {
+		t.Errorf("%s: %v is copied as %v", name, v, copied)
+	}
+	theirs, own := memory(reflect.ValueOf(v)), memory(reflect.ValueOf(copied))
+	if meet(theirs, own) {
+		t.Errorf("%s: a copy shares memory with what was copied", name)
+	}
+	for i, x := range own {
+		if meet([]span{x}, own[i+1:]) {
+			t.Errorf("%s: two parts of a copy share memory", name)
+		}
+	}
+	runtime.KeepAlive(v)
+	runtime.KeepAlive(copied)
+}
+
+// tidy is a new v whose empty lists are nil.
+func tidy(x any) any {
+	var walk func(v reflect.Value) reflect.Value
+	walk = func(v reflect.Value) reflect.Value {
+		out := reflect.New(v.Type()).Elem()
+		out.Set(v)
+		switch v.Kind() {
+		case reflect.Slice:
+			out.SetZero()
+			for i := range v.Len() {
+				out.Set(reflect.Append(out, walk(v.Index(i))))
+			}
+		case reflect.Struct:
+			for i := range v.NumField() {
+				out.Field(i).Set(walk(v.Field(i)))
+			}
+		}
+		return out
+	}
+	return walk(reflect.ValueOf(x)).Interface()
+}
+
+func TestCopies(t *testing.T) { // 11.3, 12.3
+	k := &maker{length: two}
+	m, d := k.message(), k.disk()
+	if n := len(memory(reflect.ValueOf(m))); n != 79 {
+		t.Errorf("a message has %d lists and texts", n)
+	}
+	hold(t, "a message", m, fresh.Msg(m))
+	hold(t, "a disk", d, fresh.Disk(d))
+	r := rand.New(rand.NewPCG(6, 1))
+	k.length = func() int { return r.IntN(4) }
+	for range 300 {
+		m, d := k.message(), k.disk()
+		hold(t, "a message", m, fresh.Msg(m))
+		hold(t, "a disk", d, fresh.Disk(d))
+	}
+}
+
+func TestTwoCopies(t *testing.T) { // 11.3, 12.3: an answer shares no memory with an earlier one
+	k := &maker{length: two}
+	m, d := k.message(), k.disk()
+	hold(t, "a message", fresh.Msg(m), fresh.Msg(m))
+	hold(t, "a disk", fresh.Disk(d), fresh.Disk(d))
+}
+
+func TestNothingIsChanged(t *testing.T) { // 11.3, 12.3
+	k := &maker{length: two}
+	m, d := k.message(), k.disk()
+	before, beforeDisk := tidy(m), tidy(d)
+	nodes, behind := m.Nodes[:3], m.Nodes[:3][2]
+	copied := fresh.Msg(m)
+	fresh.Disk(d)
+	_ = append(copied.Nodes, -7)
+	if !reflect.DeepEqual(tidy(m), before) || !reflect.DeepEqual(tidy(d), beforeDisk) || nodes[2] != behind {
+		t.Error("what was handed in was changed:", m, d)
+	}
+}
+
+func TestNilAndEmptyAreAlike(t *testing.T) { // P1
+	none := &maker{length: func() int { return 0 }}
+	m, d := none.message(), none.disk()
+	if m.Claims == nil || m.Bound.Kinds == nil || d.Files == nil {
+		t.Fatal("these are nil:", m, d)
+	}
+	hold(t, "a message", m, fresh.Msg(m))
+	hold(t, "a disk", d, fresh.Disk(d))
+	hold(t, "no message", api.Msg{}, fresh.Msg(api.Msg{}))
+	hold(t, "no disk", api.Disk{}, fresh.Disk(api.Disk{}))
+	m = api.Msg{Rows: []api.Row{nil, {}, {{}}}, Claims: []api.Claim{{}, {Owners: [][]int{nil, {}, {1}}}}, Catalog: []api.Table{{}, {Rows: []api.Row{}}}}
+	hold(t, "lists of nothing", m, fresh.Msg(m))
+}
+
+func TestSideBySide(t *testing.T) { // P3: as nothing is changed, many may ask at once
+	k := &maker{length: two}
+	m, d := k.message(), k.disk()
+	var w sync.WaitGroup
+	for range 8 {
+		w.Go(func() {
+			for range 20 {
+				hold(t, "a message", m, fresh.Msg(m))
+				hold(t, "a disk", d, fresh.Disk(d))
+			}
+		})
+	}
+	w.Wait()
+}
