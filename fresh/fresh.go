@@ -1,9 +1,10 @@
 // Package fresh has new memory of what calls hand on: an answer shares none with what was handed in, and a text is memory, too. Each call is a thing just like the one that it is given, whether that is right or not; its empty lists are nil.
 //
-// fresh.go has disks, and how lists are gone through; message.go has messages, row.go tables and their rows.
+// fresh.go has disks, and how lists are gone through; message.go has messages, row.go tables and their rows, stream.go streams.
 package fresh
 
 import (
+	"slices"
 	"strings"
 
 	"potsherd/api"
@@ -23,7 +24,7 @@ func diskFile(f api.DiskFile) api.DiskFile {
 
 // each is a new list of what part makes of each one of l.
 func each[T any](l []T, part func(T) T) []T {
-	var all []T
+	all := slices.Grow([]T(nil), len(l))
 	for _, x := range l {
 		all = append(all, part(x))
 	}

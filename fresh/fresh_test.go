@@ -54,6 +54,16 @@ func (k *maker) disk() (d api.Disk) {
 	return d
 }
 
+func (k *maker) out() (o api.Out) {
+	k.fill(reflect.ValueOf(&o).Elem())
+	return o
+}
+
+func (k *maker) in() (i api.In) {
+	k.fill(reflect.ValueOf(&i).Elem())
+	return i
+}
+
 func two() int { return 2 }
 
 // span is a piece of memory.
@@ -136,7 +146,7 @@ func tidy(x any) any {
 	return walk(reflect.ValueOf(x)).Interface()
 }
 
-func TestCopies(t *testing.T) { // 11.3, 12.3
+func TestCopies(t *testing.T) { // 11.3, 12.3, 13.3
 	k := &maker{length: two}
 	m, d := k.message(), k.disk()
 	if n := len(memory(reflect.ValueOf(m))); n != 79 {
@@ -144,32 +154,50 @@ func TestCopies(t *testing.T) { // 11.3, 12.3
 	}
 	hold(t, "a message", m, fresh.Msg(m))
 	hold(t, "a disk", d, fresh.Disk(d))
+	holdStreams(t, k.out(), k.in())
 	r := rand.New(rand.NewPCG(6, 1))
 	k.length = func() int { return r.IntN(4) }
 	for range 300 {
 		m, d := k.message(), k.disk()
 		hold(t, "a message", m, fresh.Msg(m))
 		hold(t, "a disk", d, fresh.Disk(d))
+		holdStreams(t, k.out(), k.in())
 	}
 }
 
-func TestTwoCopies(t *testing.T) { // 11.3, 12.3: an answer shares no memory with an earlier one
+func holdStreams(t *testing.T, o api.Out, i api.In) {
+	t.Helper()
+	hold(t, "a stream that is sent", o, fresh.Out(o))
+	hold(t, "a stream that is received", i, fresh.In(i))
+	hold(t, "rows", i.Rows, fresh.Rows(i.Rows))
+}
+
+func TestTwoCopies(t *testing.T) { // 11.3, 12.3, 13.3: an answer shares no memory with an earlier one
 	k := &maker{length: two}
 	m, d := k.message(), k.disk()
 	hold(t, "a message", fresh.Msg(m), fresh.Msg(m))
 	hold(t, "a disk", fresh.Disk(d), fresh.Disk(d))
+	o, i := k.out(), k.in()
+	hold(t, "a stream that is sent", fresh.Out(o), fresh.Out(o))
+	hold(t, "a stream that is received", fresh.In(i), fresh.In(i))
+	hold(t, "rows", fresh.Rows(i.Rows), fresh.Rows(i.Rows))
 }
 
-func TestNothingIsChanged(t *testing.T) { // 11.3, 12.3
+func TestNothingIsChanged(t *testing.T) { // 11.3, 12.3, 13.3
 	k := &maker{length: two}
-	m, d := k.message(), k.disk()
-	before, beforeDisk := tidy(m), tidy(d)
+	m, d, o, i := k.message(), k.disk(), k.out(), k.in()
+	before, beforeDisk, beforeOut, beforeIn := tidy(m), tidy(d), tidy(o), tidy(i)
 	nodes, behind := m.Nodes[:3], m.Nodes[:3][2]
 	copied := fresh.Msg(m)
 	fresh.Disk(d)
+	fresh.Out(o)
+	fresh.Rows(fresh.In(i).Rows)
 	_ = append(copied.Nodes, -7)
 	if !reflect.DeepEqual(tidy(m), before) || !reflect.DeepEqual(tidy(d), beforeDisk) || nodes[2] != behind {
 		t.Error("what was handed in was changed:", m, d)
+	}
+	if !reflect.DeepEqual(tidy(o), beforeOut) || !reflect.DeepEqual(tidy(i), beforeIn) {
+		t.Error("what was handed in was changed:", o, i)
 	}
 }
 
@@ -181,6 +209,9 @@ func TestNilAndEmptyAreAlike(t *testing.T) { // P1
 	}
 	hold(t, "a message", m, fresh.Msg(m))
 	hold(t, "a disk", d, fresh.Disk(d))
+	holdStreams(t, none.out(), none.in())
+	holdStreams(t, api.Out{}, api.In{})
+	holdStreams(t, api.Out{Batches: [][]api.Row{nil, {}, {nil, {}}}}, api.In{Held: []api.Batch{{}, {Rows: []api.Row{}}}})
 	hold(t, "no message", api.Msg{}, fresh.Msg(api.Msg{}))
 	hold(t, "no disk", api.Disk{}, fresh.Disk(api.Disk{}))
 	m = api.Msg{Rows: []api.Row{nil, {}, {{}}}, Claims: []api.Claim{{}, {Owners: [][]int{nil, {}, {1}}}}, Catalog: []api.Table{{}, {Rows: []api.Row{}}}}
@@ -189,13 +220,14 @@ func TestNilAndEmptyAreAlike(t *testing.T) { // P1
 
 func TestSideBySide(t *testing.T) { // P3: as nothing is changed, many may ask at once
 	k := &maker{length: two}
-	m, d := k.message(), k.disk()
+	m, d, o, i := k.message(), k.disk(), k.out(), k.in()
 	var w sync.WaitGroup
 	for range 8 {
 		w.Go(func() {
 			for range 20 {
 				hold(t, "a message", m, fresh.Msg(m))
 				hold(t, "a disk", d, fresh.Disk(d))
+				holdStreams(t, o, i)
 			}
 		})
 	}

@@ -12,7 +12,7 @@ func Msg(m api.Msg) api.Msg {
 	m.Catalog = each(m.Catalog, table)
 	m.Frag = frag(m.Frag)
 	m.Nodes = plain(m.Nodes)
-	m.Rows = each(m.Rows, row)
+	m.Rows = Rows(m.Rows)
 	m.File = file(m.File)
 	m.Claims = each(m.Claims, claim)
 	return m
@@ -55,7 +55,7 @@ func source(s api.Src) api.Src {
 func file(f api.File) api.File {
 	f.Table = strings.Clone(f.Table)
 	f.Cols = each(f.Cols, column)
-	f.Rows = each(f.Rows, row)
+	f.Rows = Rows(f.Rows)
 	return f
 }
 

@@ -9,7 +9,7 @@ import (
 func table(t api.Table) api.Table {
 	t.Name = strings.Clone(t.Name)
 	t.Cols = each(t.Cols, column)
-	t.Rows = each(t.Rows, row)
+	t.Rows = Rows(t.Rows)
 	return t
 }
 
@@ -17,6 +17,9 @@ func column(c api.Col) api.Col {
 	c.Name = strings.Clone(c.Name)
 	return c
 }
+
+// Rows are those of l in new memory.
+func Rows(l []api.Row) []api.Row { return each(l, row) }
 
 func row(r api.Row) api.Row { return each(r, value) }
 
