@@ -64,6 +64,11 @@ func (k *maker) in() (i api.In) {
 	return i
 }
 
+func (k *maker) worker() (w api.Worker) {
+	k.fill(reflect.ValueOf(&w).Elem())
+	return w
+}
+
 func two() int { return 2 }
 
 // span is a piece of memory.
@@ -172,6 +177,26 @@ func holdStreams(t *testing.T, o api.Out, i api.In) {
 	hold(t, "rows", i.Rows, fresh.Rows(i.Rows))
 }
 
+func TestCopiesOfWorkers(t *testing.T) { // 16.4
+	k := &maker{length: two}
+	w := k.worker()
+	if n := len(memory(reflect.ValueOf(w))); n != 251 {
+		t.Errorf("a worker has %d lists and texts", n)
+	}
+	hold(t, "a worker", w, fresh.Worker(w))
+	hold(t, "a worker's copies", fresh.Worker(w), fresh.Worker(w))
+	r := rand.New(rand.NewPCG(8, 1))
+	k.length = func() int { return r.IntN(3) }
+	for range 100 {
+		w := k.worker()
+		hold(t, "a worker", w, fresh.Worker(w))
+	}
+	k.length = func() int { return 0 }
+	w = k.worker()
+	hold(t, "a worker with nothing", w, fresh.Worker(w))
+	hold(t, "no worker", api.Worker{}, fresh.Worker(api.Worker{}))
+}
+
 func TestTwoCopies(t *testing.T) { // 11.3, 12.3, 13.3: an answer shares no memory with an earlier one
 	k := &maker{length: two}
 	m, d := k.message(), k.disk()
@@ -185,19 +210,20 @@ func TestTwoCopies(t *testing.T) { // 11.3, 12.3, 13.3: an answer shares no memo
 
 func TestNothingIsChanged(t *testing.T) { // 11.3, 12.3, 13.3
 	k := &maker{length: two}
-	m, d, o, i := k.message(), k.disk(), k.out(), k.in()
-	before, beforeDisk, beforeOut, beforeIn := tidy(m), tidy(d), tidy(o), tidy(i)
+	m, d, o, i, w := k.message(), k.disk(), k.out(), k.in(), k.worker()
+	before, beforeDisk, beforeOut, beforeIn, beforeWorker := tidy(m), tidy(d), tidy(o), tidy(i), tidy(w)
 	nodes, behind := m.Nodes[:3], m.Nodes[:3][2]
 	copied := fresh.Msg(m)
 	fresh.Disk(d)
 	fresh.Out(o)
 	fresh.Rows(fresh.In(i).Rows)
+	fresh.Worker(w)
 	_ = append(copied.Nodes, -7)
 	if !reflect.DeepEqual(tidy(m), before) || !reflect.DeepEqual(tidy(d), beforeDisk) || nodes[2] != behind {
 		t.Error("what was handed in was changed:", m, d)
 	}
-	if !reflect.DeepEqual(tidy(o), beforeOut) || !reflect.DeepEqual(tidy(i), beforeIn) {
-		t.Error("what was handed in was changed:", o, i)
+	if !reflect.DeepEqual(tidy(o), beforeOut) || !reflect.DeepEqual(tidy(i), beforeIn) || !reflect.DeepEqual(tidy(w), beforeWorker) {
+		t.Error("what was handed in was changed:", o, i, w)
 	}
 }
 
