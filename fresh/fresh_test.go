@@ -69,6 +69,11 @@ func (k *maker) worker() (w api.Worker) {
 	return w
 }
 
+func (k *maker) coord() (c api.Coord) {
+	k.fill(reflect.ValueOf(&c).Elem())
+	return c
+}
+
 func two() int { return 2 }
 
 // span is a piece of memory.
@@ -197,6 +202,37 @@ func TestCopiesOfWorkers(t *testing.T) { // 16.4
 	hold(t, "no worker", api.Worker{}, fresh.Worker(api.Worker{}))
 }
 
+func TestCopiesOfCoordinators(t *testing.T) { // 17.3, 18.5
+	k := &maker{length: two}
+	c := k.coord()
+	if n := len(memory(reflect.ValueOf(c))); n != 251 {
+		t.Errorf("a coordinator has %d lists and texts", n)
+	}
+	holdCoord(t, c)
+	hold(t, "a coordinator's copies", fresh.Coord(c), fresh.Coord(c))
+	r := rand.New(rand.NewPCG(9, 1))
+	k.length = func() int { return r.IntN(3) }
+	for range 100 {
+		holdCoord(t, k.coord())
+	}
+	k.length = func() int { return 0 }
+	holdCoord(t, k.coord())
+	holdCoord(t, api.Coord{})
+	holdCoord(t, api.Coord{Loads: []api.Load{{}, {Acks: [][]int{nil, {}}}}, Runs: []api.Run{{}}, Claims: []api.Claim{{}}})
+}
+
+func holdCoord(t *testing.T, c api.Coord) {
+	t.Helper()
+	hold(t, "a coordinator", c, fresh.Coord(c))
+	hold(t, "claims", c.Claims, fresh.Claims(c.Claims))
+	for _, x := range c.Claims {
+		hold(t, "a claim", x, fresh.Claim(x))
+	}
+	for _, x := range c.Loads {
+		hold(t, "a load", x, fresh.Load(x))
+	}
+}
+
 func TestTwoCopies(t *testing.T) { // 11.3, 12.3, 13.3: an answer shares no memory with an earlier one
 	k := &maker{length: two}
 	m, d := k.message(), k.disk()
@@ -210,20 +246,21 @@ func TestTwoCopies(t *testing.T) { // 11.3, 12.3, 13.3: an answer shares no memo
 
 func TestNothingIsChanged(t *testing.T) { // 11.3, 12.3, 13.3
 	k := &maker{length: two}
-	m, d, o, i, w := k.message(), k.disk(), k.out(), k.in(), k.worker()
-	before, beforeDisk, beforeOut, beforeIn, beforeWorker := tidy(m), tidy(d), tidy(o), tidy(i), tidy(w)
+	m, d, o, i, w, c := k.message(), k.disk(), k.out(), k.in(), k.worker(), k.coord()
+	before, beforeDisk, beforeOut, beforeIn, beforeWorker, beforeCoord := tidy(m), tidy(d), tidy(o), tidy(i), tidy(w), tidy(c)
 	nodes, behind := m.Nodes[:3], m.Nodes[:3][2]
 	copied := fresh.Msg(m)
 	fresh.Disk(d)
 	fresh.Out(o)
 	fresh.Rows(fresh.In(i).Rows)
 	fresh.Worker(w)
+	fresh.Coord(c)
 	_ = append(copied.Nodes, -7)
 	if !reflect.DeepEqual(tidy(m), before) || !reflect.DeepEqual(tidy(d), beforeDisk) || nodes[2] != behind {
 		t.Error("what was handed in was changed:", m, d)
 	}
-	if !reflect.DeepEqual(tidy(o), beforeOut) || !reflect.DeepEqual(tidy(i), beforeIn) || !reflect.DeepEqual(tidy(w), beforeWorker) {
-		t.Error("what was handed in was changed:", o, i, w)
+	if !reflect.DeepEqual(tidy(o), beforeOut) || !reflect.DeepEqual(tidy(i), beforeIn) || !reflect.DeepEqual(tidy(w), beforeWorker) || !reflect.DeepEqual(tidy(c), beforeCoord) {
+		t.Error("what was handed in was changed:", o, i, w, c)
 	}
 }
 

@@ -14,7 +14,7 @@ func Msg(m api.Msg) api.Msg {
 	m.Nodes = plain(m.Nodes)
 	m.Rows = Rows(m.Rows)
 	m.File = file(m.File)
-	m.Claims = each(m.Claims, claim)
+	m.Claims = Claims(m.Claims)
 	return m
 }
 
@@ -59,7 +59,11 @@ func file(f api.File) api.File {
 	return f
 }
 
-func claim(c api.Claim) api.Claim {
+// Claims are those of l in new memory.
+func Claims(l []api.Claim) []api.Claim { return each(l, Claim) }
+
+// Claim is c in new memory.
+func Claim(c api.Claim) api.Claim {
 	c.Table = strings.Clone(c.Table)
 	c.Cols = each(c.Cols, column)
 	c.Owners = each(c.Owners, plain[int])
