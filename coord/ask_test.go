@@ -1,6 +1,8 @@
 package coord_test
 
 import (
+	"reflect"
+	"runtime"
 	"slices"
 	"strings"
 	"testing"
@@ -148,34 +150,133 @@ func TestAskUnavailable(t *testing.T) { // 18.2: no owner that is alive; nothing
 	}
 }
 
-func TestTheLastNumber(t *testing.T) { // 18.2: Last being 2^64 - 1, and one less
-	c := with(func(c *api.Coord) { c.Last = most - 1 })
+func TestTheLastNumber(t *testing.T) { // 18.2: Last one below 2^64 - 1: the number is that, as ever
+	nearlySpent := func() api.Coord {
+		c := busy()
+		c.Last = most - 1
+		return c
+	}
+	c := nearlySpent()
 	n := &node{t, c}
-	r := run(c, most, all, 1)
-	n.ask("the last number", all, most, starts(c, r)...)
-	c.Last, c.Runs = most, []api.Run{r}
-	n.is("the last number", c)
-	for _, q := range []string{all, "(from z)", "?"} {
-		n.ask("none left: "+q, q, 0)
-		c.Answers = append(c.Answers, failed(0, api.ErrRange))
-		n.is("none left: "+q, c)
-	}
-	for _, x := range []api.Table{table("t", nil), {}} {
-		n.load("none left", x, 0)
-		c.Answers = append(c.Answers, failed(0, api.ErrRange))
-		n.is("none left", c)
-	}
-	c = with(func(c *api.Coord) { c.Last = most - 1 })
+	r := run(c, most, joined, 1)
+	n.ask("a query", joined, most, starts(c, r)...)
+	c.Last, c.Runs = most, append(c.Runs, r)
+	n.is("a query", c)
+	n.ask("a query behind the last", joined, 0)
+	n.is("a query behind the last", c)
+
+	c = nearlySpent()
 	n = &node{t, c}
 	x := load(most, table("t", ts(0, 9)))
-	n.load("the last number", x.Table, most, every(x)...)
-	c.Last, c.Loads = most, []api.Load{x}
-	n.is("the last number", c)
-	c = with(func(c *api.Coord) { c.Last = most - 1 })
-	n = &node{t, c}
-	n.ask("the last number of no query", "?", most)
-	c.Last, c.Answers = most, []api.Answer{failed(most, api.ErrSyntax)}
-	n.is("the last number of no query", c)
+	n.load("a table", x.Table, most, every(x)...)
+	c.Last, c.Loads = most, append(c.Loads, x)
+	n.is("a table", c)
+	n.load("a table behind the last", x.Table, 0)
+	n.is("a table behind the last", c)
+
+	for q, why := range unread() {
+		c, n := nearlySpent(), &node{t, nearlySpent()}
+		n.ask(q, q, most)
+		c.Last, c.Answers = most, append(c.Answers, failed(most, why))
+		n.is(q, c)
+		n.ask(q+" behind the last", q, 0)
+		n.is(q+" behind the last", c)
+	}
+	c, n = nearlySpent(), &node{t, nearlySpent()}
+	n.load("no table", api.Table{}, most)
+	c.Last, c.Answers = most, append(c.Answers, failed(most, api.ErrLong))
+	n.is("no table", c)
+	n.load("no table behind the last", api.Table{}, 0)
+	n.is("no table behind the last", c)
+}
+
+// spent are coordinators that have no number left.
+func spent() map[string]api.Coord {
+	nobody := api.Leases{Boots: make([]uint64, 4), Seen: make([]uint64, 4)}
+	l := map[string]api.Coord{
+		"bare":                      {Layout: api.Layout{Nodes: 3, Shards: 1, Replicas: 1}, Leases: api.Leases{Boots: make([]uint64, 3), Seen: make([]uint64, 3)}},
+		"quiet":                     quiet(),
+		"busy":                      busy(),
+		"nearly done":               nearly(),
+		"as many Runs as may be":    running(quiet(), all, shuffled, counted, joined),
+		"as many Loads as may be":   with(func(c *api.Coord) { c.Loads = loads(4) }),
+		"as many tables as may be":  with(func(c *api.Coord) { c.Claims = many(8) }),
+		"nobody alive":              with(func(c *api.Coord) { c.Leases = nobody }),
+		"answers of the last":       with(func(c *api.Coord) { c.Answers = []api.Answer{failed(most, api.OK), failed(7, api.ErrFull)} }),
+		"a run of the last number":  with(func(c *api.Coord) { c.Runs = []api.Run{run(*c, most, all, 1)} }),
+		"a load of the last number": with(func(c *api.Coord) { c.Loads = []api.Load{load(most, table("t", ts(0, 9)))} }),
+	}
+	for name, c := range l {
+		c.Last = most
+		l[name] = c
+	}
+	return l
+}
+
+func TestNoNumberLeft(t *testing.T) { // 18.2, P2, 18.7: Last being 2^64 - 1: it is as it was, and nothing is answered
+	asks := []string{all, counted, joined, shuffled, elsewhere}
+	for q := range unread() {
+		asks = append(asks, q)
+	}
+	tables := []api.Table{{}, {Name: "t"}, table("t", ts(0, 9)), table("v", ts(0, 30)), table("v", ts(0, 65)), table("\xff", nil)}
+	for name, c := range spent() {
+		n := &node{t, c}
+		for range 2 {
+			for _, q := range asks {
+				n.ask(name+": "+q, q, 0)
+				n.is(name+": "+q, c)
+			}
+			for _, x := range tables {
+				n.load(name+": "+x.Name, x, 0)
+				n.is(name+": "+x.Name, c)
+			}
+		}
+	}
+}
+
+func TestNoNumberLeftInNewMemory(t *testing.T) { // 18.2, 18.5: what is as it was shares nothing with what was handed in
+	for name, c := range spent() {
+		x := roomy(given{Coord: c, Query: all, Table: table("t", ts(0, 9))})
+		theirs, before := memory(reflect.ValueOf(x)), behind(x)
+		asked, _, _ := coord.Ask(x.Coord, x.Query)
+		loaded, _, _ := coord.Load(x.Coord, x.Table)
+		if share(theirs, memory(reflect.ValueOf(asked)), memory(reflect.ValueOf(loaded))) {
+			t.Errorf("%s: memory is shared", name)
+		}
+		if !alike(asked, c) || !alike(loaded, c) {
+			t.Errorf("%s: asked: %s; loaded: %s", name, differ(asked, c), differ(loaded, c))
+		}
+		if after := behind(x); !reflect.DeepEqual(after, before) {
+			t.Errorf("%s: what was handed in was changed: %s", name, differ(after, before))
+		}
+		runtime.KeepAlive(x)
+		runtime.KeepAlive(asked)
+		runtime.KeepAlive(loaded)
+	}
+}
+
+func TestASpentCoordGoesOn(t *testing.T) { // 18.2, 18.3, 18.4: what is under way is answered still, and once
+	c := quiet()
+	c.Last = most - 1
+	n := &node{t, c}
+	r := run(c, most, all, 1)
+	n.ask("the last query", all, most, starts(c, r)...)
+	n.ask("one more", all, 0)
+	n.load("a table", table("t", nil), 0)
+	for i, in := range r.Ins {
+		m := batches(in.Stream, ts(i, i+1))[0]
+		want := post(r.Frags[i].Node, ack(in.Stream, 1))
+		if i == len(r.Ins)-1 {
+			want = append(want, cleans(c, most)...)
+		}
+		n.receive("a batch", r.Frags[i].Node, m, want...)
+	}
+	n.ask("one more behind the answer", all, 0)
+	n.load("a table behind the answer", table("t", nil), 0)
+	n.tick("a tick")
+	if want := []api.Answer{{N: most, Names: []string{"k", "s"}, Rows: ts(0, 3)}}; !alike(n.Answers, want) || len(n.Runs) > 0 {
+		t.Error("the answers:", differ(n.Answers, want))
+	}
 }
 
 func TestLoad(t *testing.T) { // 18.2

@@ -12,18 +12,14 @@ import (
 	"potsherd/publish"
 )
 
-// numbered does what is ordered under a number of its own, and tells that; if it stops, why is the answer. Where there is no number left, the answer is of none.
+// numbered does what is ordered under a number of its own, and tells that; if it stops, why is the answer. Where there is no number left, nothing is done, nor answered, as there is none that an answer could be of: 0 is told.
 func (c *change) numbered(do func(n uint64)) uint64 {
-	var n uint64
-	why := stopped(func() {
-		if c.Last == math.MaxUint64 {
-			panic(api.ErrRange)
-		}
-		c.Last++
-		n = c.Last
-		do(n)
-	})
-	if why != api.OK {
+	if c.Last == math.MaxUint64 {
+		return 0
+	}
+	c.Last++
+	n := c.Last
+	if why := stopped(func() { do(n) }); why != api.OK {
 		c.answer(api.Answer{N: n, Why: why})
 	}
 	return n

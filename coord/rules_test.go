@@ -310,6 +310,9 @@ func TestAnything(t *testing.T) { // P1, P2, P3, P4, 18.6
 			if x.Coord.Disk.Down && (len(a.Posts) > 0 || a.N != 0 || isRight && !alike(a.Coord, x.Coord)) {
 				t.Fatalf("%d: %v is sent, %d the number", i, a.Posts, a.N)
 			}
+			if isOrder := i > 2; isOrder && isRight && x.Coord.Last == most && (len(a.Posts) > 0 || a.N != 0 || !alike(a.Coord, x.Coord)) {
+				t.Fatalf("%d: no number is left: %v is sent, %d the number, %s", i, a.Posts, a.N, differ(a.Coord, x.Coord))
+			}
 			sent += len(a.Posts)
 		}
 		if a := l[5]; a.Why == api.OK && coord.Check(a.Coord) != api.OK || a.Why != api.OK && (a.Coord.Boot != 0 || len(a.Coord.Leases.Boots) > 0) {

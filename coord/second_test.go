@@ -67,7 +67,6 @@ func (s *second) begin(r api.Run) (api.Run, api.Errno) {
 
 func (s *second) number() uint64 {
 	if s.Last+1 == 0 {
-		s.tell(0, api.ErrRange)
 		return 0
 	}
 	s.Last++
@@ -517,7 +516,9 @@ func TestAsTheDocumentSays(t *testing.T) { // 18.2, 18.3, 18.4, 18.6
 			var next api.Coord
 			var n, m uint64
 			var posts []api.Post
-			switch k := r.IntN(12); {
+			k := r.IntN(12)
+			isOrder := k < 2
+			switch {
 			case k == 0:
 				q := pick(r, append(queries, "(from z)", "?")...)
 				next, n, posts = coord.Ask(c, q)
@@ -545,10 +546,13 @@ func TestAsTheDocumentSays(t *testing.T) { // 18.2, 18.3, 18.4, 18.6
 				t.Fatalf("%v is not right", next)
 			}
 			tally(seen, c, next, posts)
+			if isOrder && n == 0 && !c.Disk.Down {
+				seen["no number left"]++
+			}
 			c = next
 		}
 	}
-	for _, what := range []string{"Start", "Ack", "Clean", "Install", "rows", "another attempt", "published", "down", "error 0", "error 2", "error 3", "error 5", "error 8", "error 13", "error 14", "error 18"} {
+	for _, what := range []string{"Start", "Ack", "Clean", "Install", "rows", "another attempt", "published", "down", "no number left", "error 0", "error 3", "error 5", "error 8", "error 13", "error 14", "error 18"} {
 		if seen[what] < 20 {
 			t.Errorf("%s was seen %d times", what, seen[what])
 		}
