@@ -1,6 +1,6 @@
 // Package fresh has new memory of what calls hand on: an answer shares none with what was handed in, and a text is memory, too. Each call is a thing just like the one that it is given, whether that is right or not; its empty lists are nil.
 //
-// fresh.go has disks, and how lists are gone through; message.go has messages, row.go tables and their rows, stream.go streams, worker.go workers, coord.go coordinators and what they have under way.
+// fresh.go has disks, and how lists are gone through; message.go has messages, row.go tables and their rows, stream.go streams, worker.go workers, coord.go coordinators and what they have under way, world.go worlds.
 package fresh
 
 import (

@@ -74,6 +74,11 @@ func (k *maker) coord() (c api.Coord) {
 	return c
 }
 
+func (k *maker) world() (w api.World) {
+	k.fill(reflect.ValueOf(&w).Elem())
+	return w
+}
+
 func two() int { return 2 }
 
 // span is a piece of memory.
@@ -231,6 +236,32 @@ func holdCoord(t *testing.T, c api.Coord) {
 	for _, x := range c.Loads {
 		hold(t, "a load", x, fresh.Load(x))
 	}
+}
+
+func TestCopiesOfWorlds(t *testing.T) { // 19.5
+	k := &maker{length: two}
+	w := k.world()
+	if n := len(memory(reflect.ValueOf(w))); n != 251+1+2*251+1+3+1+2*(1+2+1+2*(1+2)) {
+		t.Errorf("a world has %d lists and texts", n)
+	}
+	before := tidy(w)
+	hold(t, "a world", w, fresh.World(w))
+	hold(t, "a world's copies", fresh.World(w), fresh.World(w))
+	if !reflect.DeepEqual(tidy(w), before) {
+		t.Error("what was handed in was changed:", w)
+	}
+	r := rand.New(rand.NewPCG(10, 1))
+	k.length = func() int { return r.IntN(3) }
+	for range 30 {
+		w := k.world()
+		hold(t, "a world", w, fresh.World(w))
+	}
+	k.length = func() int { return 0 }
+	w = k.world()
+	hold(t, "a world of nothing", w, fresh.World(w))
+	w = api.World{Workers: []api.Worker{{}}, Answers: []api.Told{{}, {Answer: api.Answer{Rows: []api.Row{nil, {}}}}}}
+	hold(t, "a world of empty things", w, fresh.World(w))
+	hold(t, "no world", api.World{}, fresh.World(api.World{}))
 }
 
 func TestTwoCopies(t *testing.T) { // 11.3, 12.3, 13.3: an answer shares no memory with an earlier one
